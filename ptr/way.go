@@ -11,11 +11,11 @@ import (
 // behindAll is the step that puts a value behind those of a list.
 const behindAll = "-"
 
-// ending is what is done at the end of a way: it is given what lies there, and answers what is to lie there instead.
-type ending func(json.Value) (json.Value, api.Errno)
+// Ending is what is done at the end of a way: it is given what lies there, and answers what is to lie there instead.
+type Ending func(json.Value) (json.Value, api.Errno)
 
-// change answers v with what end makes of the value to which the steps lead; v itself stays as it is.
-func change(v json.Value, steps []string, end ending) (json.Value, api.Errno) {
+// Change answers v with what end makes of the value to which the steps lead; v itself stays as it is.
+func Change(v json.Value, steps []string, end Ending) (json.Value, api.Errno) {
 	if len(steps) == 0 {
 		return end(v)
 	}
@@ -23,19 +23,59 @@ func change(v json.Value, steps []string, end ending) (json.Value, api.Errno) {
 	if inner == nil {
 		return nil, api.ErrNone
 	}
-	inner, e := change(inner, steps[1:], end)
+	inner, e := Change(inner, steps[1:], end)
 	if e != api.OK {
 		return nil, e
 	}
 	return put(v, steps[0], inner)
 }
 
-// find answers what the steps lead to, or nil.
-func find(v json.Value, steps []string) json.Value {
+// Find answers what the steps lead to, or nil.
+func Find(v json.Value, steps []string) json.Value {
 	for _, s := range steps {
 		v = lead(v, s)
 	}
 	return v
+}
+
+// With answers v with item at the end of the steps, as Put puts it.
+func With(v json.Value, steps []string, item json.Value) (json.Value, api.Errno) {
+	ahead, last, some := Apart(steps)
+	if !some {
+		return item, api.OK
+	}
+	return Change(v, ahead, func(holder json.Value) (json.Value, api.Errno) {
+		return put(holder, last, item)
+	})
+}
+
+// Without answers v without what the steps lead to, as Cut cuts it.
+func Without(v json.Value, steps []string) (json.Value, api.Errno) {
+	ahead, last, some := Apart(steps)
+	if !some {
+		return nil, api.ErrArg
+	}
+	return Change(v, ahead, func(holder json.Value) (json.Value, api.Errno) {
+		return cut(holder, last)
+	})
+}
+
+// Apart answers the steps ahead of the last one, and that one, if there is any.
+func Apart(steps []string) ([]string, string, bool) {
+	if len(steps) == 0 {
+		return nil, "", false
+	}
+	last := len(steps) - 1
+	return steps[:last], steps[last], true
+}
+
+// Room answers at which place the step puts a value, if it does: at one of the list's, or behind them all.
+func Room(items json.List, step string) (int, bool) {
+	if step == behindAll {
+		return len(items), true
+	}
+	at, is := place(step)
+	return at, is && at <= len(items)
 }
 
 // lead answers what the step leads to, or nil (from nil, too).
@@ -81,11 +121,8 @@ func putField(fields json.Object, name string, item json.Value) json.Value {
 }
 
 func putItem(items json.List, step string, item json.Value) (json.Value, api.Errno) {
-	at, is := place(step)
-	if step == behindAll {
-		at, is = len(items), true
-	}
-	if !is || at > len(items) {
+	at, is := Room(items, step)
+	if !is {
 		return nil, api.ErrNone
 	}
 	behind := min(at+1, len(items))
