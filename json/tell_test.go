@@ -114,3 +114,26 @@ func TestFind(t *testing.T) {
 		}
 	}
 }
+
+// Ways into values that other packages take.
+func TestFields(t *testing.T) {
+	o := json.Object{{"", json.Number(1)}, {"a", json.Null{}}, {"b", json.List{}}}
+	for _, name := range []string{"", "a", "b"} {
+		if at, there := o.Find(name); !there || !json.Equal(o.Under(name), o[at].Value) {
+			t.Errorf("Under(%q) = %v", name, o.Under(name))
+		}
+	}
+	for _, name := range []string{"A", "aa", "c", "0"} {
+		if v := o.Under(name); v != nil {
+			t.Errorf("Under(%q) = %v", name, v)
+		}
+	}
+	if v := json.FieldsOf(o); !json.Equal(v, o) {
+		t.Errorf("FieldsOf(%v) = %v", o, v)
+	}
+	for _, v := range []json.Value{nil, json.Null{}, json.Text("a"), json.List{o}, json.Object{}} {
+		if f := json.FieldsOf(v); len(f) > 0 || f.Under("a") != nil {
+			t.Errorf("FieldsOf(%v) = %v", v, f)
+		}
+	}
+}

@@ -49,6 +49,20 @@ func (o Object) Find(name string) (int, bool) {
 	})
 }
 
+// Under answers what the field of that name has, or nil.
+func (o Object) Under(name string) Value {
+	if at, there := o.Find(name); there {
+		return o[at].Value
+	}
+	return nil
+}
+
+// FieldsOf answers the fields of v: none, if it is no object.
+func FieldsOf(v Value) Object {
+	fields, _ := v.(Object)
+	return fields
+}
+
 // KindOf answers of which kind v is.
 func KindOf(v Value) int {
 	switch v.(type) {

@@ -82,9 +82,7 @@ func Room(items json.List, step string) (int, bool) {
 func lead(v json.Value, step string) json.Value {
 	switch v := v.(type) {
 	case json.Object:
-		if at, there := v.Find(step); there {
-			return v[at].Value
-		}
+		return v.Under(step)
 	case json.List:
 		if at, is := place(step); is && at < len(v) {
 			return v[at]
