@@ -12,7 +12,8 @@ func Tell(v Value) (string, api.Errno) {
 	if z.deep > api.MaxDeep {
 		return "", api.ErrDeep
 	}
-	if z.nodes > api.MaxNodes {
+	// Names and texts alone may be too long, and one of any length may come often: that is not written.
+	if z.nodes > api.MaxNodes || z.bytes > api.MaxText {
 		return "", api.ErrLarge
 	}
 	s := text(v)

@@ -1,6 +1,7 @@
 package json_test
 
 import (
+	"runtime"
 	"strings"
 	"testing"
 
@@ -79,6 +80,24 @@ func TestTell(t *testing.T) {
 		}
 		if c, e := json.Canon(s); c != s || e != api.OK {
 			t.Errorf("Tell(%.60v) = %.60q is not canonical: %.60q, %d", r.v, s, c, e)
+		}
+	}
+}
+
+// P1, P8: what is much too long is refused, not written: there may be more of it than memory.
+func TestTellMuch(t *testing.T) {
+	long := strings.Repeat("a", 1<<20)
+	for _, v := range []json.Value{
+		rowValue(190, json.Text(long)),
+		rowValue(90, json.Object{{long, json.Null{}}}),
+		nestValue(9, rowValue(190, json.Text(long))),
+	} {
+		var before, behind runtime.MemStats
+		runtime.ReadMemStats(&before)
+		s, e := json.Tell(v)
+		runtime.ReadMemStats(&behind)
+		if much := behind.TotalAlloc - before.TotalAlloc; s != "" || e != api.ErrLarge || much > 1<<20 {
+			t.Errorf("Tell = %.60q, %d, with %d bytes of memory", s, e, much)
 		}
 	}
 }

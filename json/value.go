@@ -87,28 +87,32 @@ func Equal(v, w Value) bool {
 	return text(v) == text(w)
 }
 
-// size is how many values there are, and how many lists and objects in one another.
-type size struct{ nodes, deep int }
+// size is how many values there are, how many lists and objects in one another, and how many bytes texts and names have.
+type size struct{ nodes, deep, bytes int }
 
 func (z *size) hold(inner size) {
 	z.nodes += inner.nodes
 	z.deep = max(z.deep, inner.deep+1)
+	z.bytes += inner.bytes
 }
 
 func measure(v Value) size {
 	switch v := v.(type) {
+	case Text:
+		return size{nodes: 1, bytes: len(v)}
 	case List:
-		z := size{1, 1}
+		z := size{nodes: 1, deep: 1}
 		for _, item := range v {
 			z.hold(measure(item))
 		}
 		return z
 	case Object:
-		z := size{1, 1}
+		z := size{nodes: 1, deep: 1}
 		for _, f := range v {
+			z.bytes += len(f.Name)
 			z.hold(measure(f.Value))
 		}
 		return z
 	}
-	return size{1, 0}
+	return size{nodes: 1}
 }
